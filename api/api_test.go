@@ -23,3 +23,15 @@ func TestDiskBounds(t *testing.T) {
 		t.Errorf("Sector = %d, MaxSectors = %d", api.Sector, api.MaxSectors)
 	}
 }
+
+func TestJournalBounds(t *testing.T) {
+	if api.MaxRecord != 40 {
+		t.Errorf("MaxRecord = %d", api.MaxRecord)
+	}
+	if api.MinRing != 2 || api.MaxRing != 6 {
+		t.Errorf("MinRing, MaxRing = %d, %d", api.MinRing, api.MaxRing)
+	}
+	if api.MinSegment != 2 || api.MaxSegment != 16 {
+		t.Errorf("MinSegment, MaxSegment = %d, %d", api.MinSegment, api.MaxSegment)
+	}
+}
