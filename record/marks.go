@@ -1,0 +1,18 @@
+package record
+
+import "pact/api"
+
+// Marks are a node's marks: of each coordinator the greatest transaction that is marked. At first they are all zero, which is less than every transaction.
+type Marks [api.MaxNodes]api.Txn
+
+// Has tells whether a transaction is marked already.
+func (m *Marks) Has(t api.Txn) bool { return Compare(t, m[t.Coord]) <= 0 }
+
+// Pack tells all marks as bytes, MaxRecord at most.
+func (m *Marks) Pack() []byte {
+	var b []byte
+	for _, t := range m {
+		b = appendNumbers(b, t)
+	}
+	return b
+}
