@@ -14,13 +14,16 @@ import (
 
 // Node is a node. It is up as long as it has a journal in use.
 type Node struct {
-	id      int
-	config  api.Config
-	journal *journal.Journal
-	refuses bool
-	cost    api.Cost
+	id          int
+	config      api.Config
+	disk        *disk.Disk
+	incarnation int // the last one, if the node is down
+	refuses     bool
+	cost        api.Cost
 
-	begun    int // transactions, in this incarnation
+	journal  *journal.Journal
+	fuse     *fuse // nil if there is none
+	begun    int   // transactions, in this incarnation
 	open     map[api.Txn]*deal
 	prepared map[api.Txn]int // the numbers of their Yes records
 	marks    record.Marks
@@ -32,13 +35,21 @@ type Node struct {
 func New(id int, c api.Config) *Node {
 	d, _ := disk.New(c.Ring*c.PerSegment + 2)
 	j, _ := journal.Create(d, c.Ring, c.PerSegment)
-	return &Node{
+	n := &Node{
 		id:       id,
 		config:   c,
-		journal:  j,
+		disk:     d,
 		open:     map[api.Txn]*deal{},
 		prepared: map[api.Txn]int{},
 	}
+	n.use(j)
+	return n
+}
+
+// use begins an incarnation.
+func (n *Node) use(j *journal.Journal) {
+	n.journal = j
+	n.incarnation = j.Epoch()
 }
 
 // Up tells whether the node has power.
@@ -50,24 +61,48 @@ func (n *Node) Refuse(on bool) { n.refuses = on }
 // Costs tells what the node has spent since it was made.
 func (n *Node) Costs() api.Cost { return n.cost }
 
-// Begin begins a transaction with these parts; the node is not Full.
-func (n *Node) Begin(parts set.Set) (api.Txn, []api.Event) {
-	t := api.Txn{Coord: n.id, Inc: n.journal.Epoch(), Seq: n.begun + 1}
-	return t, n.do(func() { n.begin(t, parts) })
+// Begin begins a transaction with these parts; the node is up and not Full. As of Act and Tick, the error is ErrPower or none.
+func (n *Node) Begin(parts set.Set) (api.Txn, []api.Event, api.Errno) {
+	t := api.Txn{Coord: n.id, Inc: n.incarnation, Seq: n.begun + 1}
+	events, e := n.do(func() { n.begin(t, parts) })
+	if e != api.OK {
+		return api.Txn{}, events, e
+	}
+	return t, events, api.OK
 }
 
 // Act acts on a message that goes to the node.
-func (n *Node) Act(m api.Message) []api.Event {
+func (n *Node) Act(m api.Message) ([]api.Event, api.Errno) {
 	return n.do(func() { n.act(m) })
 }
 
 // Tick lets the node's time go by.
-func (n *Node) Tick() []api.Event { return n.do(n.tick) }
+func (n *Node) Tick() ([]api.Event, api.Errno) { return n.do(n.tick) }
 
-// do is the node's edge: all that it does in a call is done inside.
-func (n *Node) do(work func()) []api.Event {
+// do tells what has happened in a call up to its end, or up to where the power failed.
+func (n *Node) do(work func()) ([]api.Event, api.Errno) {
+	e := n.powered(work)
+	return n.takeEvents(), e
+}
+
+// powered is the node's edge: a failure of its power goes no further.
+func (n *Node) powered(work func()) (e api.Errno) {
+	defer func() {
+		switch failure := recover().(type) {
+		case nil:
+		case powerFailure:
+			n.crash(failure.keep)
+			e = api.ErrPower
+		default:
+			panic(failure)
+		}
+	}()
 	work()
 	n.lookAfterJournal()
+	return api.OK
+}
+
+func (n *Node) takeEvents() []api.Event {
 	events := n.events
 	n.events = nil
 	return events
@@ -130,7 +165,7 @@ func (n *Node) sendAll(kind int, to set.Set, t api.Txn) {
 	}
 }
 
-// happen is for the events that have an outcome.
+// happen is for all events but Sent.
 func (n *Node) happen(kind int, t api.Txn, outcome int) {
 	n.events = append(n.events, api.Event{Kind: kind, Node: n.id, Txn: t, Outcome: outcome})
 }

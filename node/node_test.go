@@ -47,7 +47,7 @@ func TestP20RecordsOfACommit(t *testing.T) {
 	for _, variant := range variants {
 		n := newNode(3, variant)
 		parts := set.Set(7)
-		x, _ := n.Begin(parts)
+		x, _, _ := n.Begin(parts)
 		var want []record.Record
 		if variant == api.Commit {
 			want = append(want, record.Record{Kind: record.Init, Txn: x, Nodes: parts})
@@ -96,7 +96,7 @@ func wantAbort(t *testing.T, n *Node, x api.Txn, parts, nodes set.Set) {
 func TestP20RecordsOfANo(t *testing.T) {
 	for _, variant := range variants {
 		n := newNode(0, variant)
-		x, _ := n.Begin(7)
+		x, _, _ := n.Begin(7)
 		hear(n, api.Yes, 1, x)
 		hear(n, api.No, 2, x)
 		wantAbort(t, n, x, 7, 3)
@@ -106,7 +106,7 @@ func TestP20RecordsOfANo(t *testing.T) {
 func TestP20RecordsOfAnAbortForNobody(t *testing.T) {
 	for _, variant := range variants {
 		n := newNode(0, variant)
-		x, _ := n.Begin(8)
+		x, _, _ := n.Begin(8)
 		hear(n, api.No, 3, x)
 		wantAbort(t, n, x, 8, 0)
 	}
@@ -115,7 +115,7 @@ func TestP20RecordsOfAnAbortForNobody(t *testing.T) {
 func TestP21RecordsOfAnAbort(t *testing.T) {
 	for _, variant := range variants {
 		n := newNode(1, variant)
-		x, _ := n.Begin(13)
+		x, _, _ := n.Begin(13)
 		hear(n, api.Yes, 3, x)
 		n.Tick()
 		n.Tick()
@@ -151,7 +151,7 @@ func TestP20RecordsOfAParticipant(t *testing.T) {
 func TestP20WhatIsNotWaitedFor(t *testing.T) {
 	for _, variant := range variants {
 		n := newNode(0, variant)
-		x, _ := n.Begin(6)
+		x, _, _ := n.Begin(6)
 		hear(n, api.Yes, 1, x)
 		want := api.Entry{Txn: x, Role: api.Coordinator, State: api.Preparing, Waits: 4}
 		for kind := api.Yes; kind <= api.Ack; kind++ {
@@ -172,7 +172,7 @@ func TestP20WhatIsNotWaitedFor(t *testing.T) {
 func TestP20VotesBehindTheOutcome(t *testing.T) {
 	for _, variant := range []int{api.Nothing, api.Commit} {
 		n := newNode(0, variant)
-		x, _ := n.Begin(14)
+		x, _, _ := n.Begin(14)
 		hear(n, api.No, 1, x)
 		for _, kind := range []int{api.Yes, api.No} {
 			for from := range 4 {
@@ -283,14 +283,14 @@ func TestP22AYesIsNeeded(t *testing.T) {
 
 func TestP22ACommitIsNeeded(t *testing.T) {
 	n := newNode(1, api.Abort)
-	x, _ := n.Begin(1)
+	x, _, _ := n.Begin(1)
 	hear(n, api.Yes, 0, x)
 	wantHeld(t, n, func() { hear(n, api.Ack, 0, x) })
 }
 
 func TestP22AnAbortIsNeeded(t *testing.T) {
 	n := newNode(1, api.Nothing)
-	x, _ := n.Begin(1)
+	x, _, _ := n.Begin(1)
 	n.Tick()
 	n.Tick()
 	wantHeld(t, n, func() { hear(n, api.Ack, 0, x) })
@@ -298,14 +298,14 @@ func TestP22AnAbortIsNeeded(t *testing.T) {
 
 func TestP22AnInitIsNeeded(t *testing.T) {
 	n := newNode(1, api.Commit)
-	x, _ := n.Begin(5)
+	x, _, _ := n.Begin(5)
 	wantHeld(t, n, func() { hear(n, api.Yes, 0, x); hear(n, api.Yes, 2, x) })
 }
 
 // With presumed commit an abort has no record but the Init.
 func TestP22AnInitOfAnAbortIsNeeded(t *testing.T) {
 	n := newNode(1, api.Commit)
-	x, _ := n.Begin(5)
+	x, _, _ := n.Begin(5)
 	hear(n, api.No, 0, x)
 	wantHeld(t, n, func() { hear(n, api.Ack, 2, x) })
 }
@@ -375,7 +375,7 @@ func TestP13FullAtMaxNumber(t *testing.T) {
 	if n.Full() {
 		t.Fatalf("full ahead of the last transaction")
 	}
-	if x, _ := n.Begin(1); x != tx(1, 1, api.MaxNumber) {
+	if x, _, _ := n.Begin(1); x != tx(1, 1, api.MaxNumber) {
 		t.Errorf("the last transaction is %v", x)
 	}
 	if !n.Full() {
@@ -385,7 +385,7 @@ func TestP13FullAtMaxNumber(t *testing.T) {
 
 func TestTransactionsAreOfTheJournalsEpoch(t *testing.T) {
 	n := newNode(2, api.Nothing)
-	if x, _ := n.Begin(1); x != tx(2, n.journal.Epoch(), 1) {
+	if x, _, _ := n.Begin(1); x != tx(2, n.journal.Epoch(), 1) {
 		t.Errorf("the first transaction is %v", x)
 	}
 }

@@ -23,7 +23,7 @@ func (n *Node) vote(t api.Txn, from int) {
 
 func (n *Node) prepare(t api.Txn) {
 	n.prepared[t] = n.force(record.Record{Kind: record.Yes, Txn: t})
-	n.marks[t.Coord] = t
+	n.marks.Add(t)
 }
 
 // learn: where acks are due, one is sent for what isn't prepared too, or the coordinator would wait for ever.

@@ -11,8 +11,9 @@ const (
 	preparedNeed = 2
 )
 
-// write can't fail: no transaction is taken on for which there is no room.
+// write fails with the power alone: no transaction is taken on for which there is no room.
 func (n *Node) write(r record.Record) int {
+	n.burnFuse()
 	number, _ := n.journal.Append(r.Pack())
 	return number
 }
@@ -31,7 +32,7 @@ func (n *Node) lazy(r record.Record) {
 
 // mark is for a transaction of which no Yes is written.
 func (n *Node) mark(t api.Txn) {
-	n.marks[t.Coord] = t
+	n.marks.Add(t)
 	n.truncate(n.journal.Low())
 	n.cost.Forced++
 }

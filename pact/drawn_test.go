@@ -2,6 +2,7 @@ package pact_test
 
 import (
 	"math/rand"
+	"slices"
 	"testing"
 
 	"pact/api"
@@ -44,6 +45,41 @@ func (w *twin) begin(t *testing.T, r *rand.Rand) {
 	x, e := w.k.Begin(node, parts)
 	if y, f := w.m.begin(node, parts); x != y || e != f {
 		t.Fatalf("Begin(%d, %v) = %v, %d, want %v, %d", node, parts, x, e, y, f)
+	}
+}
+
+func drawKeep(r *rand.Rand) []bool {
+	keep := make([]bool, r.Intn(5))
+	for i := range keep {
+		keep[i] = r.Intn(3) > 0
+	}
+	return keep
+}
+
+// powerStep draws a call of P17 to P19.
+func (w *twin) powerStep(t *testing.T, r *rand.Rand) {
+	t.Helper()
+	node := r.Intn(w.m.c.Nodes+2) - 1
+	keep := drawKeep(r)
+	handed := slices.Clone(keep)
+	var got, want api.Errno
+	switch r.Intn(6) {
+	case 0:
+		got, want = w.k.Crash(node, handed), w.m.crash(node, keep)
+	case 1, 2:
+		after := r.Intn(7) - 1
+		got, want = w.k.Fuse(node, after, handed), w.m.setFuse(node, after, keep)
+	default:
+		got, want = w.k.Restart(node), w.m.restart(node)
+	}
+	if got != want {
+		t.Fatalf("a call of P17 to P19 of node %d answers %d, want %d", node, got, want)
+	}
+	if !slices.Equal(handed, keep) {
+		t.Fatalf("what was handed in is written into")
+	}
+	for i := range handed { // it is the caller's again
+		handed[i] = !handed[i]
 	}
 }
 
@@ -107,6 +143,41 @@ func TestP22DrawnCalls(t *testing.T) {
 	}
 }
 
+func TestP17ToP19DrawnCalls(t *testing.T) {
+	r := rand.New(rand.NewSource(8))
+	for range 800 {
+		w := newTwin(t, drawConfig(r))
+		loss, power := r.Intn(4), 1+r.Intn(3)
+		for range 150 {
+			if r.Intn(10) < power {
+				w.powerStep(t, r)
+			} else {
+				w.step(t, r, loss)
+			}
+			w.check(t)
+		}
+	}
+}
+
+// Long runs go round the ring many times, and through many incarnations.
+func TestP17ToP19LongDrawnCalls(t *testing.T) {
+	r := rand.New(rand.NewSource(9))
+	for range 30 {
+		w := newTwin(t, drawConfig(r))
+		loss := r.Intn(3)
+		for i := range 3000 {
+			if r.Intn(20) == 0 {
+				w.powerStep(t, r)
+			} else {
+				w.step(t, r, loss)
+			}
+			if i%100 == 99 {
+				w.check(t)
+			}
+		}
+	}
+}
+
 func TestP1ClustersHaveNothingToDoWithOneAnother(t *testing.T) {
 	r := rand.New(rand.NewSource(7))
 	for range 20 {
@@ -115,7 +186,11 @@ func TestP1ClustersHaveNothingToDoWithOneAnother(t *testing.T) {
 			twins = append(twins, newTwin(t, drawConfig(r)))
 		}
 		for range 200 {
-			twins[r.Intn(3)].step(t, r, 2)
+			if w := twins[r.Intn(3)]; r.Intn(8) == 0 {
+				w.powerStep(t, r)
+			} else {
+				w.step(t, r, 2)
+			}
 			for _, w := range twins {
 				w.check(t)
 			}

@@ -121,13 +121,17 @@ type view struct {
 	trace  []api.Event
 	tables [][]api.Entry
 	costs  []api.Cost
+	down   []int
 }
 
 func viewOf(k *pact.Cluster) view {
 	v := view{net: k.Net(), trace: k.Trace(0)}
 	for i := range api.MaxNodes {
-		if l, e := k.Table(i); e == api.OK {
+		switch l, e := k.Table(i); e {
+		case api.OK:
 			v.tables = append(v.tables, l)
+		case api.ErrDown:
+			v.down = append(v.down, i)
 		}
 		if c, e := k.Costs(i); e == api.OK {
 			v.costs = append(v.costs, c)
@@ -139,7 +143,7 @@ func viewOf(k *pact.Cluster) view {
 func wantView(t *testing.T, got, want view) {
 	t.Helper()
 	same := slices.Equal(got.net, want.net) && slices.Equal(got.trace, want.trace) && slices.Equal(got.costs, want.costs) &&
-		slices.EqualFunc(got.tables, want.tables, slices.Equal)
+		slices.Equal(got.down, want.down) && slices.EqualFunc(got.tables, want.tables, slices.Equal)
 	if !same {
 		t.Fatalf("the cluster tells\n%+v\nwant\n%+v", got, want)
 	}

@@ -6,7 +6,7 @@ import (
 	"pact/api"
 )
 
-// model says once more, as plainly as can be, what a cluster is: every node keeps lists, and all the records that it ever wrote.
+// model says once more, as plainly as can be, what a cluster is: every node keeps lists, and all the records that it ever wrote and did not lose.
 type model struct {
 	c     api.Config
 	nodes []*modelNode
@@ -18,13 +18,24 @@ type modelNode struct {
 	m        *model
 	id       int
 	refuses  bool
-	open     []*modelDeal // in the order in which they were begun
+	open     []*modelDeal // in the order of their transactions
 	prepared []api.Txn
 	marked   []api.Txn
 	records  []modelRecord
+	durable  int // so many of them
+	noted    []api.Txn
 	low      int
+	inc      int
 	begun    int
 	cost     api.Cost
+	down     bool
+	fuse     *modelFuse
+	failed   bool // its power, in the call that goes on: it does nothing more
+}
+
+type modelFuse struct {
+	left int
+	keep []bool
 }
 
 type modelDeal struct {
@@ -36,14 +47,15 @@ type modelDeal struct {
 }
 
 type modelRecord struct {
-	kind string
-	x    api.Txn
+	kind  string
+	x     api.Txn
+	nodes []int
 }
 
 func newModel(c api.Config) *model {
 	m := &model{c: c}
 	for id := range c.Nodes {
-		m.nodes = append(m.nodes, &modelNode{m: m, id: id, low: 1})
+		m.nodes = append(m.nodes, &modelNode{m: m, id: id, low: 1, inc: 1})
 	}
 	return m
 }
@@ -74,18 +86,23 @@ func (m *model) begin(node int, parts []int) (api.Txn, api.Errno) {
 		return api.Txn{}, api.ErrArg
 	}
 	p := m.nodes[node]
+	if p.down {
+		return api.Txn{}, api.ErrDown
+	}
 	if len(p.open) == api.MaxOpen || p.room() < p.need()+3 {
 		return api.Txn{}, api.ErrFull
 	}
 	p.begun++
-	x := tx(node, 1, p.begun)
-	if m.c.Variant == api.Commit {
-		p.force("Init", x)
-	}
+	x := tx(node, p.inc, p.begun)
 	sorted := slices.Sorted(slices.Values(parts))
+	if m.c.Variant == api.Commit {
+		p.force("Init", x, sorted)
+	}
 	p.open = append(p.open, &modelDeal{x: x, state: api.Preparing, parts: sorted, waits: sorted})
 	p.sendEach(api.Prepare, sorted, x)
-	p.lookAfter()
+	if e := p.finish(); e != api.OK {
+		return api.Txn{}, e
+	}
 	return x, api.OK
 }
 
@@ -96,9 +113,11 @@ func (m *model) deliver(i int) api.Errno {
 	s := m.net[i]
 	m.drop(i)
 	p := m.nodes[s.To]
+	if p.down {
+		return api.OK
+	}
 	p.act(s)
-	p.lookAfter()
-	return api.OK
+	return p.finish()
 }
 
 func (m *model) drop(i int) api.Errno {
@@ -121,9 +140,12 @@ func (m *model) tick(node int) api.Errno {
 	if !m.isNode(node) {
 		return api.ErrArg
 	}
-	m.nodes[node].tick()
-	m.nodes[node].lookAfter()
-	return api.OK
+	p := m.nodes[node]
+	if p.down {
+		return api.ErrDown
+	}
+	p.tick()
+	return p.finish()
 }
 
 func (m *model) round() {
@@ -132,7 +154,20 @@ func (m *model) round() {
 	}
 }
 
+// finish ends a call.
+func (p *modelNode) finish() api.Errno {
+	if p.failed {
+		p.crash(p.fuse.keep)
+		return api.ErrPower
+	}
+	p.lookAfter()
+	return api.OK
+}
+
 func (p *modelNode) send(kind, to int, x api.Txn) {
+	if p.failed {
+		return
+	}
 	p.m.net = append(p.m.net, msg(kind, p.id, to, x))
 	p.m.trace = append(p.m.trace, sent(kind, p.id, to, x))
 	p.cost.Sent++
@@ -145,27 +180,54 @@ func (p *modelNode) sendEach(kind int, to []int, x api.Txn) {
 }
 
 func (p *modelNode) happens(kind int, x api.Txn, outcome int) {
-	p.m.trace = append(p.m.trace, event(kind, p.id, x, outcome))
+	if !p.failed {
+		p.m.trace = append(p.m.trace, event(kind, p.id, x, outcome))
+	}
 }
 
-func (p *modelNode) force(kind string, x api.Txn) {
-	p.records = append(p.records, modelRecord{kind, x})
-	p.cost.Forced++
+// write tells whether the record was written.
+func (p *modelNode) write(kind string, x api.Txn, nodes []int) bool {
+	if p.fuse != nil && !p.failed {
+		p.failed = p.fuse.left == 0
+		p.fuse.left--
+	}
+	if p.failed {
+		return false
+	}
+	p.records = append(p.records, modelRecord{kind, x, nodes})
+	return true
+}
+
+func (p *modelNode) force(kind string, x api.Txn, nodes []int) {
+	if p.write(kind, x, nodes) {
+		p.durable = len(p.records)
+		p.cost.Forced++
+	}
 }
 
 func (p *modelNode) lazy(kind string, x api.Txn) {
-	p.records = append(p.records, modelRecord{kind, x})
-	p.cost.Lazy++
+	if p.write(kind, x, nil) {
+		p.cost.Lazy++
+	}
 }
 
 // A mark is the greatest, so that all that were marked and all below them are marked.
 func (p *modelNode) isMarked(x api.Txn) bool {
-	return slices.ContainsFunc(p.marked, func(y api.Txn) bool { return y.Coord == x.Coord && x.Seq <= y.Seq })
+	return slices.ContainsFunc(p.marked, func(y api.Txn) bool {
+		return y.Coord == x.Coord && (x.Inc < y.Inc || x.Inc == y.Inc && x.Seq <= y.Seq)
+	})
 }
 
 func (p *modelNode) mark(x api.Txn) {
 	p.marked = append(p.marked, x)
+	p.truncate(p.low)
 	p.cost.Forced++
+}
+
+func (p *modelNode) truncate(low int) {
+	p.low = low
+	p.noted = slices.Clone(p.marked)
+	p.durable = len(p.records)
 }
 
 func (p *modelNode) segment(number int) int { return (number - 1) / p.m.c.PerSegment }
@@ -198,7 +260,7 @@ func (p *modelNode) lookAfter() {
 		needed = append(needed, p.firstRecord(x, "Yes"))
 	}
 	if n := slices.Min(needed); p.segment(n) > p.segment(p.low) {
-		p.low = n
+		p.truncate(n)
 	}
 }
 
@@ -262,7 +324,7 @@ func (p *modelNode) prepare(x api.Txn, q int) {
 	} else if len(p.prepared) == api.MaxOpen || p.room() < p.need()+2 {
 		return
 	} else {
-		p.force("Yes", x)
+		p.force("Yes", x, nil)
 		p.marked = append(p.marked, x)
 		p.prepared = append(p.prepared, x)
 		p.send(api.Yes, q, x)
@@ -270,7 +332,7 @@ func (p *modelNode) prepare(x api.Txn, q int) {
 }
 
 func (p *modelNode) commit(d *modelDeal) {
-	p.force("Commit", d.x)
+	p.force("Commit", d.x, d.parts)
 	p.happens(api.Told, d.x, api.Committed)
 	p.sendEach(api.DoCommit, d.parts, d.x)
 	if p.m.acksDue(api.Committed) {
@@ -282,7 +344,7 @@ func (p *modelNode) commit(d *modelDeal) {
 
 func (p *modelNode) abort(d *modelDeal, nodes []int) {
 	if p.m.c.Variant == api.Nothing {
-		p.force("Abort", d.x)
+		p.force("Abort", d.x, nodes)
 	}
 	p.happens(api.Told, d.x, api.Aborted)
 	p.sendEach(api.DoAbort, nodes, d.x)
@@ -300,7 +362,7 @@ func (p *modelNode) learn(x api.Txn, q, outcome int, done string) {
 	due := p.m.acksDue(outcome)
 	if slices.Contains(p.prepared, x) {
 		if due {
-			p.force(done, x)
+			p.force(done, x, nil)
 		} else {
 			p.lazy(done, x)
 		}
@@ -357,20 +419,24 @@ func (p *modelNode) table() []api.Entry {
 		}
 		l = append(l, coordinates(d.x, d.state, bits))
 	}
-	for coord := range p.m.nodes {
-		for seq := range p.m.nodes[coord].begun {
-			if x := tx(coord, 1, seq+1); slices.Contains(p.prepared, x) {
-				l = append(l, prepared(x))
-			}
-		}
+	for _, x := range slices.SortedFunc(slices.Values(p.prepared), less) {
+		l = append(l, prepared(x))
 	}
 	return l
 }
 
+func less(x, y api.Txn) int {
+	return slices.Compare([]int{x.Coord, x.Inc, x.Seq}, []int{y.Coord, y.Inc, y.Seq})
+}
+
 func (m *model) view() view {
 	v := view{net: m.net, trace: m.trace}
-	for _, p := range m.nodes {
-		v.tables = append(v.tables, p.table())
+	for i, p := range m.nodes {
+		if p.down {
+			v.down = append(v.down, i)
+		} else {
+			v.tables = append(v.tables, p.table())
+		}
 		v.costs = append(v.costs, p.cost)
 	}
 	return v

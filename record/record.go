@@ -26,13 +26,29 @@ type Record struct {
 	Outcome int
 }
 
-// numberSize is enough for all numbers up to MaxNumber.
-const numberSize = 4
+// A number of numberSize bytes is enough for all numbers up to MaxNumber; a transaction has two besides its coordinator.
+const (
+	numberSize  = 4
+	numbersSize = 2 * numberSize
+)
+
+// numbersAt is where a record has the numbers of its transaction.
+const numbersAt = 4
 
 // Pack tells a record as bytes, MaxRecord at most.
 func (r Record) Pack() []byte {
 	b := []byte{byte(r.Kind), byte(r.Nodes), byte(r.Outcome), byte(r.Txn.Coord)}
 	return appendNumbers(b, r.Txn)
+}
+
+// Unpack tells the record that was packed so.
+func Unpack(b []byte) Record {
+	return Record{
+		Kind:    int(b[0]),
+		Nodes:   set.Set(b[1]),
+		Outcome: int(b[2]),
+		Txn:     takeNumbers(b[numbersAt:], int(b[3])),
+	}
 }
 
 // appendNumbers leaves the coordinator out: a note tells it by the place.
@@ -44,6 +60,15 @@ func appendNumbers(b []byte, t api.Txn) []byte {
 		b = append(b, byte(t.Seq>>(8*i)))
 	}
 	return b
+}
+
+func takeNumbers(b []byte, coord int) api.Txn {
+	t := api.Txn{Coord: coord}
+	for i := range numberSize {
+		t.Inc |= int(b[i]) << (8 * i)
+		t.Seq |= int(b[numberSize+i]) << (8 * i)
+	}
+	return t
 }
 
 // Compare orders transactions by coordinator, incarnation and number.

@@ -96,6 +96,70 @@ func TestPackIsNewMemory(t *testing.T) {
 	}
 }
 
+func TestUnpack(t *testing.T) {
+	for _, r := range records() {
+		if got := record.Unpack(r.Pack()); got != r {
+			t.Fatalf("%+v is unpacked as %+v", r, got)
+		}
+	}
+	for kind := record.Init; kind <= record.Commit; kind++ {
+		for nodes := range 1 << api.MaxNodes {
+			r := record.Record{Kind: kind, Txn: api.Txn{Coord: 3, Inc: 2, Seq: 1}, Nodes: set.Set(nodes)}
+			if got := record.Unpack(r.Pack()); got != r {
+				t.Fatalf("%+v is unpacked as %+v", r, got)
+			}
+		}
+	}
+}
+
+func TestUnpackMarks(t *testing.T) {
+	for _, x := range transactions() {
+		for coord := range api.MaxNodes {
+			var m record.Marks
+			m[coord] = api.Txn{Coord: coord, Inc: 5, Seq: 6}
+			m[x.Coord] = x
+			got := record.UnpackMarks(m.Pack())
+			for c := range api.MaxNodes {
+				if record.Compare(got[c], api.Txn{Coord: c, Inc: m[c].Inc, Seq: m[c].Seq}) != 0 {
+					t.Fatalf("%+v are unpacked as %+v", m, got)
+				}
+			}
+		}
+	}
+}
+
+// A journal that was never truncated has no note.
+func TestUnpackNoMarks(t *testing.T) {
+	for _, note := range [][]byte{nil, {}} {
+		if m := record.UnpackMarks(note); m != (record.Marks{}) {
+			t.Errorf("an empty note tells %+v", m)
+		}
+	}
+	var none record.Marks
+	m := record.UnpackMarks(none.Pack())
+	for coord := range api.MaxNodes {
+		if m.Has(api.Txn{Coord: coord, Inc: 1, Seq: 1}) {
+			t.Errorf("a note without marks marks the first transaction of node %d", coord)
+		}
+	}
+}
+
+func TestAddMarks(t *testing.T) {
+	var m record.Marks
+	a, b, c := api.Txn{Coord: 1, Inc: 1, Seq: 9}, api.Txn{Coord: 1, Inc: 2, Seq: 1}, api.Txn{Coord: 1, Inc: 2, Seq: 2}
+	other := api.Txn{Coord: 3, Inc: 1, Seq: 1}
+	for _, step := range []struct{ add, want api.Txn }{{a, a}, {b, b}, {a, b}, {c, c}, {b, c}, {c, c}} {
+		m.Add(step.add)
+		if want := (record.Marks{1: step.want}); m != want {
+			t.Fatalf("behind %v the marks are %+v, want %+v", step.add, m, want)
+		}
+	}
+	m.Add(other)
+	if want := (record.Marks{1: c, 3: other}); m != want {
+		t.Fatalf("the marks are %+v, want %+v", m, want)
+	}
+}
+
 func TestCompare(t *testing.T) {
 	sign := func(c int) int { return min(max(c, -1), 1) }
 	all := transactions()
